@@ -1,67 +1,23 @@
 package sha
 
-import (
-	"math/bits"
-	"sync"
-)
+// How often a block's words are mixed in: one word, one constant a round.
+const rounds = 64
 
-// The numbers that FIPS 180-4 starts and mixes with. They are the first 32 bits behind the point of roots of the first primes: whoever sums first works them out, once.
-var (
-	constantsReady sync.Once
-	startState     [8]uint32
-	roundConstants [64]uint32
-)
+// roundConstants are, as FIPS 180-4 has them, the first 32 bits behind the point of the cube roots of the first 64 primes.
+var roundConstants = [rounds]uint32{
+	0x428a2f98, 0x71374491, 0xb5c0fbcf, 0xe9b5dba5, 0x3956c25b, 0x59f111f1, 0x923f82a4, 0xab1c5ed5,
+	0xd807aa98, 0x12835b01, 0x243185be, 0x550c7dc3, 0x72be5d74, 0x80deb1fe, 0x9bdc06a7, 0xc19bf174,
+	0xe49b69c1, 0xefbe4786, 0x0fc19dc6, 0x240ca1cc, 0x2de92c6f, 0x4a7484aa, 0x5cb0a9dc, 0x76f988da,
+	0x983e5152, 0xa831c66d, 0xb00327c8, 0xbf597fc7, 0xc6e00bf3, 0xd5a79147, 0x06ca6351, 0x14292967,
+	0x27b70a85, 0x2e1b2138, 0x4d2c6dfc, 0x53380d13, 0x650a7354, 0x766a0abb, 0x81c2c92e, 0x92722c85,
+	0xa2bfe8a1, 0xa81a664b, 0xc24b8b70, 0xc76c51a3, 0xd192e819, 0xd6990624, 0xf40e3585, 0x106aa070,
+	0x19a4c116, 0x1e376c08, 0x2748774c, 0x34b0bcb5, 0x391c0cb3, 0x4ed8aa4a, 0x5b9cca4f, 0x682e6ff3,
+	0x748f82ee, 0x78a5636f, 0x84c87814, 0x8cc70208, 0x90befffa, 0xa4506ceb, 0xbef9a3f7, 0xc67178f2,
+}
 
-// workOutConstants fills the two tables: square roots of the first 8 primes, cube roots of the first 64.
-func workOutConstants() {
-	prime := uint64(1)
-	for i := range roundConstants {
-		prime = primeBehind(prime)
-		if i < len(startState) {
-			startState[i] = behindPoint(prime, topOfSquare)
-		}
-		roundConstants[i] = behindPoint(prime<<32, topOfCube)
+// startState answers what each sum starts with: the same bits of the square roots of the first 8 primes.
+func startState() [8]uint32 {
+	return [8]uint32{
+		0x6a09e667, 0xbb67ae85, 0x3c6ef372, 0xa54ff53a, 0x510e527f, 0x9b05688c, 0x1f83d9ab, 0x5be0cd19,
 	}
-}
-
-// primeBehind answers the least prime that is greater than n.
-func primeBehind(n uint64) uint64 {
-	for n++; !isPrime(n); n++ {
-	}
-	return n
-}
-
-// isPrime tells whether n, 2 or more, is a prime.
-func isPrime(n uint64) bool {
-	for d := uint64(2); d*d <= n; d++ {
-		if n%d == 0 {
-			return false
-		}
-	}
-	return true
-}
-
-// behindPoint answers the first 32 bits behind the point of a prime's root: the lowest ones of the greatest x whose power, its lower 64 bits left away, is less than limit. A prime is no power of a whole number, so no x is just at the limit.
-func behindPoint(limit uint64, topOfPower func(x uint64) uint64) uint32 {
-	x := uint64(0)
-	// Each of these roots is less than 8, so three bits stand ahead of the point.
-	for bit := uint64(1) << 34; bit > 0; bit >>= 1 {
-		if topOfPower(x|bit) < limit {
-			x |= bit
-		}
-	}
-	return uint32(x)
-}
-
-// topOfSquare is x*x without its lower 64 bits.
-func topOfSquare(x uint64) uint64 {
-	high, _ := bits.Mul64(x, x)
-	return high
-}
-
-// topOfCube is x*x*x without its lower 64 bits; x has at most 35 bits, so that what is left has no more than 64.
-func topOfCube(x uint64) uint64 {
-	high, low := bits.Mul64(x, x)
-	carry, _ := bits.Mul64(low, x)
-	return high*x + carry
 }

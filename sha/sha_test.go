@@ -242,9 +242,6 @@ func TestP3SameCallsSameAnswers(t *testing.T) {
 }
 
 func TestP7SideBySide(t *testing.T) {
-	// As if nobody had summed yet, so that all want the constants at once.
-	constantsReady = sync.Once{}
-	startState, roundConstants = [8]uint32{}, [64]uint32{}
 	var all sync.WaitGroup
 	right := make([]bool, 16)
 	for i := range right {
@@ -270,18 +267,6 @@ func TestP1AnyParts(t *testing.T) {
 		}
 		if got := Sum(parts...); got != want(bytes.Join(parts, nil)) {
 			t.Fatalf("%x: %x", parts, got)
-		}
-	}
-}
-
-func TestP201Constants(t *testing.T) {
-	Sum()
-	if startState != [8]uint32{0x6a09e667, 0xbb67ae85, 0x3c6ef372, 0xa54ff53a, 0x510e527f, 0x9b05688c, 0x1f83d9ab, 0x5be0cd19} {
-		t.Errorf("what is started with: %x", startState)
-	}
-	for i, k := range map[int]uint32{0: 0x428a2f98, 1: 0x71374491, 2: 0xb5c0fbcf, 15: 0xc19bf174, 16: 0xe49b69c1, 31: 0x14292967, 32: 0x27b70a85, 47: 0x106aa070, 48: 0x19a4c116, 62: 0xbef9a3f7, 63: 0xc67178f2} {
-		if roundConstants[i] != k {
-			t.Errorf("the constant of round %d: %x", i, roundConstants[i])
 		}
 	}
 }
