@@ -14,7 +14,7 @@ import (
 )
 
 // layers are the packages that are built; a layer that is built later is added here.
-var layers = []string{"code", "sha", "merkle", "value", "row", "key", "disk", "wal", "schema", "table", "index", "lock", "txn", "ledger"}
+var layers = []string{"code", "sha", "merkle", "value", "row", "key", "disk", "wal", "schema", "table", "index", "lock", "txn", "ledger", "receipt"}
 
 func TestPackageLevel(t *testing.T) {
 	for _, name := range layers {
