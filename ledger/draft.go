@@ -5,6 +5,7 @@ import (
 	"sync"
 
 	"ledgerline/api"
+	"ledgerline/copies"
 	"ledgerline/merkle"
 )
 
@@ -21,9 +22,9 @@ func (x *draft) own() *Ledger {
 }
 
 func (x *draft) copy() {
-	x.ledger.Open = copyTxs(x.ledger.Open)
+	x.ledger.Open = copies.Txs(x.ledger.Open)
 	x.ledger.Blocks = slices.Clone(x.ledger.Blocks)
-	x.ledger.Txs = copied(x.ledger.Txs, copyTxs)
+	x.ledger.Txs = copies.List(x.ledger.Txs, copies.Txs)
 }
 
 // add answers the transaction that it adds, in memory that the ledger has no part in.
@@ -31,11 +32,11 @@ func (x *draft) add(c []api.Change) api.Tx {
 	l := x.own()
 	t := api.Tx{Id: l.Next, Changes: c}
 	l.Next++
-	l.Open = append(l.Open, copyTx(t))
+	l.Open = append(l.Open, copies.Tx(t))
 	if len(l.Open) == api.MaxBlock {
 		x.close()
 	}
-	return copyTx(t)
+	return copies.Tx(t)
 }
 
 func (x *draft) close() api.Errno {
@@ -58,27 +59,4 @@ func (l *Ledger) block() Block {
 	// Without a block the digest is a zero one: its sum is the noughts that the first block begins with.
 	last, _ := Digest(*l)
 	return Block{N: len(l.Blocks) + 1, Prev: last.Hash, Root: merkle.Root(entries), Count: len(l.Open)}
-}
-
-func copyTxs(l []api.Tx) []api.Tx {
-	return copied(l, copyTx)
-}
-
-func copyTx(t api.Tx) api.Tx {
-	t.Changes = copied(t.Changes, copyChange)
-	return t
-}
-
-func copyChange(c api.Change) api.Change {
-	c.Row = slices.Clone(c.Row)
-	return c
-}
-
-// copied answers each one's copy, in a list of its own.
-func copied[T any](l []T, one func(T) T) []T {
-	all := slices.Clone(l)
-	for i, x := range all {
-		all[i] = one(x)
-	}
-	return all
 }

@@ -5,6 +5,7 @@ import (
 	"sync"
 
 	"ledgerline/api"
+	"ledgerline/copies"
 	"ledgerline/lock"
 	"ledgerline/table"
 )
@@ -28,15 +29,15 @@ func (x *draft) after(e api.Errno) (DB, api.Errno) {
 
 func (x *draft) copy() {
 	x.db = DB{
-		Tables: copied(x.db.Tables, copyTable),
-		Works:  copied(x.db.Works, copyWork),
+		Tables: copies.List(x.db.Tables, copyTable),
+		Works:  copies.List(x.db.Works, copyWork),
 		L:      lock.Locks{Holds: slices.Clone(x.db.L.Holds), Waits: slices.Clone(x.db.L.Waits)},
 	}
 }
 
 func copyTable(t table.Table) table.Table {
 	t.S = copyShape(t.S)
-	t.Rows = copied(t.Rows, slices.Clone[[]api.Value])
+	t.Rows = copies.List(t.Rows, slices.Clone[[]api.Value])
 	return t
 }
 
@@ -46,21 +47,7 @@ func copyShape(s api.Schema) api.Schema {
 }
 
 func copyWork(w Work) Work {
-	w.Log = copied(w.Log, copyChange)
+	w.Log = copies.List(w.Log, copies.Change)
 	w.Marks = slices.Clone(w.Marks)
 	return w
-}
-
-func copyChange(c api.Change) api.Change {
-	c.Row = slices.Clone(c.Row)
-	return c
-}
-
-// copied answers each one's copy, in a list of its own.
-func copied[T any](l []T, one func(T) T) []T {
-	all := slices.Clone(l)
-	for i, x := range all {
-		all[i] = one(x)
-	}
-	return all
 }
