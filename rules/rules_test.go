@@ -13,8 +13,8 @@ import (
 	"testing"
 )
 
-// layers are the packages that are built; a layer that is built later is added here.
-var layers = []string{"code", "sha", "merkle", "value", "row", "key", "disk", "wal", "schema", "table", "index", "lock", "txn", "ledger", "receipt"}
+// layers are the packages that are built, and what they share; a layer that is built later is added here.
+var layers = []string{"code", "sha", "merkle", "value", "row", "key", "disk", "wal", "schema", "table", "index", "lock", "txn", "ledger", "receipt", "store", "copies"}
 
 func TestPackageLevel(t *testing.T) {
 	for _, name := range layers {
